@@ -107,3 +107,123 @@ func TestNilAndEmptyAreAlike(t *testing.T) {
 		}
 	}
 }
+
+// askCalls is calls of chapter 3 of a book like brewBook, with every code but 4 and 1.
+func askCalls() []call {
+	return []call{
+		{"enter", "c", list("keg", "tun")}, {"enter", "zz", nil}, {"enter", "a", list("keg", "pipe", "tun", "vat")},
+		{"enter", "b", list("keg")}, {"enter", "c", list("tun", "keg")}, {"enter", "", nil},
+		{"ask", "dark", list("pipe")}, {"ask", "b", list("tun", "vat")}, {"ask", "ale", list("keg")}, {"ask", "b", nil},
+		{"ask", "dark", list("vat")}, {"ask", "ale", list("tun")}, {"ask", "ale", list("zz")}, {"ask", "c", nil},
+		{"less", "dark", list("keg", "vat")}, {"less", "ale", list("keg", "tun")}, {"less", "ale", list("tun")}, {"less", "b", nil},
+		{"less", "b", list("keg")}, {"less", "c", nil},
+		{"leave", "ale", nil}, {"leave", "b", nil}, {"leave", "dark", nil}, {"leave", "c", nil},
+	}
+}
+
+// namesOf is every list of names of a book at its full room, those of batches in the spare room of Batches, too.
+func namesOf(b impl.ShareBook) [][]string {
+	lists := [][]string{b.Things[:cap(b.Things)]}
+	for _, x := range b.Batches[:cap(b.Batches)] {
+		lists = append(lists, x.Has[:cap(x.Has)], x.Needs[:cap(x.Needs)])
+	}
+	return lists
+}
+
+// overwrite writes into all room of a book that was answered, and says whether no two of its lists share any.
+func overwrite(b impl.ShareBook) bool {
+	lists := namesOf(b)
+	for i, names := range lists {
+		for j := range names {
+			names[j] = string(rune('A' + i))
+		}
+	}
+	apart := true
+	for i, names := range lists {
+		for _, name := range names {
+			apart = apart && name == string(rune('A'+i))
+		}
+	}
+	all := b.Batches[:cap(b.Batches)]
+	for i := range all {
+		all[i] = batch("written", nil, nil)
+	}
+	return apart
+}
+
+func TestAskingChangesNoArgument(t *testing.T) {
+	for what, from := range map[string]impl.ShareBook{
+		"brew": brewBook(), "ring": ringBook(), "five": fiveBook(), "full": fullBook(), "not ok": unsound(), "empty": {}, "things alone": thingBook("keg", "tun"),
+	} {
+		for _, c := range askCalls() {
+			b := roomyBook(from)
+			c.names = roomy(c.names)
+			before, namesBefore := whole(b), slices.Clone(c.names[:cap(c.names)])
+			after, code := c.do(b)
+			if !reflect.DeepEqual(whole(b), before) || !slices.Equal(c.names[:cap(c.names)], namesBefore) {
+				t.Errorf("%s: %q: an argument is changed", what, c)
+			}
+			if !overwrite(after) {
+				t.Errorf("%s: %q: code %d: two lists of the answer share memory", what, c, code)
+			}
+			if !reflect.DeepEqual(whole(b), before) || !slices.Equal(c.names[:cap(c.names)], namesBefore) {
+				t.Errorf("%s: %q: code %d: the answer shares memory with an argument", what, c, code)
+			}
+		}
+	}
+}
+
+// TestAskingOfSharedLists is calls whose arguments share memory with each other: the answer's lists do not.
+func TestAskingOfSharedLists(t *testing.T) {
+	all := list("keg", "tun", "vat")
+	for _, c := range []call{
+		{"enter", "b", all}, {"enter", "b", all[1:]}, {"enter", "b", all[:0]}, {"enter", "ale", all},
+		{"ask", "ale", all}, {"ask", "ale", all[:2]}, {"ask", "ale", all[:0]}, {"ask", "c", all}, {"ask", "c", all[1:]},
+		{"less", "ale", all}, {"less", "ale", all[:1]}, {"less", "c", all[2:]}, {"less", "ale", all[:0]}, {"less", "c", all},
+		{"leave", "ale", nil}, {"leave", "b", nil},
+	} {
+		b := impl.ShareBook{Things: all, Batches: []impl.ShareBatch{batch("ale", all[:2], all), batch("c", all[2:], all[2:])}}
+		wanted, want := c.said(copyBook(b))
+		after, code := c.do(b)
+		if code != want || !sameBook(after, wanted) {
+			t.Errorf("%q: code %d, not %d: %q", c, code, want, after)
+		}
+		if !overwrite(after) || !slices.Equal(all, list("keg", "tun", "vat")) {
+			t.Fatalf("%q: the answer shares memory", c)
+		}
+	}
+}
+
+func TestAskingKeepsNothing(t *testing.T) {
+	for _, c := range askCalls() {
+		one, code := c.do(brewBook())
+		wanted := copyBook(one)
+		overwrite(one)
+		for _, other := range askCalls() {
+			other.do(brewBook())
+		}
+		if two, again := c.do(brewBook()); again != code || !sameBook(two, wanted) {
+			t.Errorf("%q: another answer the second time: %d, %q", c, again, two)
+		}
+	}
+}
+
+func TestAskingNilAndEmptyAlike(t *testing.T) {
+	empty := func(names []string) []string { return append([]string{}, names...) }
+	for what, from := range map[string]impl.ShareBook{
+		"brew": brewBook(), "ring": ringBook(), "not ok": unsound(), "empty": {}, "things alone": thingBook("keg"),
+		"batches alone": {Batches: []impl.ShareBatch{batch("ale", nil, nil), batch("b", nil, nil)}},
+	} {
+		for _, c := range askCalls() {
+			b := impl.ShareBook{Things: empty(from.Things), Batches: append([]impl.ShareBatch{}, from.Batches...)}
+			for i, x := range b.Batches {
+				b.Batches[i].Has, b.Batches[i].Needs = empty(x.Has), empty(x.Needs)
+			}
+			wanted, want := c.do(copyBook(from))
+			c.names = empty(c.names)
+			if after, code := c.do(b); code != want || !sameBook(after, wanted) {
+				t.Errorf("%s: %q: nil and empty lists differ: %d, %d", what, c, code, want)
+			}
+		}
+	}
+}
