@@ -30,6 +30,11 @@ func refusedBook(t *testing.T, what string, b impl.ShareBook) {
 			t.Errorf("%q: %v fits", what, places)
 		}
 	}
+	for _, names := range movesOf(b) {
+		if len(names) != 0 || impl.ShareStuck(b) {
+			t.Errorf("%q: moves, is stuck or waits: %q", what, names)
+		}
+	}
 }
 
 // thingBook is a book with these things alone.

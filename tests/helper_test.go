@@ -35,6 +35,13 @@ func ringBook() impl.ShareBook {
 	return b
 }
 
+// halfStuckBook is ringBook and one beside the ring, who can move.
+func halfStuckBook() impl.ShareBook {
+	b := ringBook()
+	b.Batches = append(b.Batches, batch("e", list("pipe"), list("pipe")))
+	return b
+}
+
 // fullBook meets every limit of books at once.
 func fullBook() impl.ShareBook {
 	var b impl.ShareBook

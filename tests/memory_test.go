@@ -37,6 +37,20 @@ func whole(b impl.ShareBook) impl.ShareBook {
 	return c
 }
 
+// emptied is the same list, empty where it was nil.
+func emptied(names []string) []string {
+	return append([]string{}, names...)
+}
+
+// emptiedBook is the same book, each list of it empty where it was nil.
+func emptiedBook(b impl.ShareBook) impl.ShareBook {
+	c := impl.ShareBook{Things: emptied(b.Things), Batches: append([]impl.ShareBatch{}, b.Batches...)}
+	for i, x := range c.Batches {
+		c.Batches[i].Has, c.Batches[i].Needs = emptied(x.Has), emptied(x.Needs)
+	}
+	return c
+}
+
 // unsound is a book that is not ok at its very end.
 func unsound() impl.ShareBook {
 	b := brewBook()
@@ -86,17 +100,7 @@ func TestNilAndEmptyAreAlike(t *testing.T) {
 		"brew": brewBook(), "ring": ringBook(), "not ok": unsound(), "empty": {},
 		"needs nothing": {Batches: []impl.ShareBatch{batch("x", nil, nil)}},
 	} {
-		b := copyBook(from)
-		if len(b.Things) == 0 {
-			b.Things = list()
-		}
-		if len(b.Batches) == 0 {
-			b.Batches = []impl.ShareBatch{}
-		}
-		for i := range b.Batches {
-			b.Batches[i].Has = append([]string{}, b.Batches[i].Has...)
-			b.Batches[i].Needs = append([]string{}, b.Batches[i].Needs...)
-		}
+		b := emptiedBook(from)
 		nilOrder, nilSafe := impl.ShareOrder(from)
 		order, safe := impl.ShareOrder(b)
 		if impl.ShareBookOk(b) != impl.ShareBookOk(from) || safe != nilSafe || !slices.Equal(order, nilOrder) {
@@ -209,21 +213,77 @@ func TestAskingKeepsNothing(t *testing.T) {
 }
 
 func TestAskingNilAndEmptyAlike(t *testing.T) {
-	empty := func(names []string) []string { return append([]string{}, names...) }
 	for what, from := range map[string]impl.ShareBook{
 		"brew": brewBook(), "ring": ringBook(), "not ok": unsound(), "empty": {}, "things alone": thingBook("keg"),
 		"batches alone": {Batches: []impl.ShareBatch{batch("ale", nil, nil), batch("b", nil, nil)}},
 	} {
 		for _, c := range askCalls() {
-			b := impl.ShareBook{Things: empty(from.Things), Batches: append([]impl.ShareBatch{}, from.Batches...)}
-			for i, x := range b.Batches {
-				b.Batches[i].Has, b.Batches[i].Needs = empty(x.Has), empty(x.Needs)
-			}
 			wanted, want := c.do(copyBook(from))
-			c.names = empty(c.names)
-			if after, code := c.do(b); code != want || !sameBook(after, wanted) {
+			c.names = emptied(c.names)
+			if after, code := c.do(emptiedBook(from)); code != want || !sameBook(after, wanted) {
 				t.Errorf("%s: %q: nil and empty lists differ: %d, %d", what, c, code, want)
 			}
 		}
+	}
+}
+
+func TestMovesChangeNoArgument(t *testing.T) {
+	for _, from := range moveBooks() {
+		b := roomyBook(from)
+		before := whole(b)
+		told := movesOf(b)
+		impl.ShareStuck(b)
+		if !reflect.DeepEqual(whole(b), before) {
+			t.Errorf("an argument is changed: %q", from)
+		}
+		for _, names := range told {
+			names = names[:cap(names)]
+			for i := range names {
+				names[i] = "written"
+			}
+		}
+		if !reflect.DeepEqual(whole(b), before) {
+			t.Errorf("an answer shares memory with an argument: %q", from)
+		}
+	}
+}
+
+func TestMovesKeepNothing(t *testing.T) {
+	for _, from := range moveBooks() {
+		one, two := movesOf(from), movesOf(from)
+		for _, names := range one {
+			clear(names[:cap(names)])
+		}
+		for _, other := range moveBooks() {
+			movesOf(other)
+			impl.ShareStuck(other)
+		}
+		want := saidMovesOf(from)
+		if three := movesOf(from); !slices.EqualFunc(two, want, slices.Equal) || !slices.EqualFunc(three, want, slices.Equal) {
+			t.Errorf("one call is seen in another: %q, %q, not %q", two, three, want)
+		}
+	}
+}
+
+func TestMovesNilAndEmptyAlike(t *testing.T) {
+	needNothing := impl.ShareBook{Batches: []impl.ShareBatch{batch("x", nil, nil), batch("y", nil, nil)}}
+	for _, from := range append(moveBooks(), needNothing) {
+		b := emptiedBook(from)
+		if !slices.EqualFunc(movesOf(b), movesOf(from), slices.Equal) || impl.ShareStuck(b) != impl.ShareStuck(from) {
+			t.Errorf("nil and empty lists differ: %q", from)
+		}
+		if len(impl.ShareWaits(b, "")) != 0 || len(impl.ShareWaits(from, "")) != 0 {
+			t.Errorf("the empty text waits: %q", from)
+		}
+	}
+}
+
+// TestMovesOfSharedLists is books whose lists share memory with each other.
+func TestMovesOfSharedLists(t *testing.T) {
+	all := list("keg", "tun", "vat")
+	b := impl.ShareBook{Things: all, Batches: []impl.ShareBatch{batch("keg", all[:1], all), batch("tun", all[1:2], all[1:]), batch("vat", all[2:], all[2:])}}
+	want := [][]string{list("vat"), list("tun", "vat"), list("vat"), nil}
+	if told := movesOf(b); !slices.EqualFunc(told, want, slices.Equal) || impl.ShareStuck(b) {
+		t.Errorf("%q, not %q", told, want)
 	}
 }

@@ -184,6 +184,44 @@ func (c call) saidEnter(b impl.ShareBook, place int) (impl.ShareBook, int) {
 	return after, 0
 }
 
+// saidMoves is ShareMoves by the words of chapter 4.
+func saidMoves(b impl.ShareBook) []string {
+	var moves []string
+	for place, x := range b.Batches {
+		if saidOk(b) && !meets(x.Needs, hadByOthers(b, place)) {
+			moves = append(moves, x.Name)
+		}
+	}
+	return moves
+}
+
+// saidStuck is ShareStuck by the words of chapter 4.
+func saidStuck(b impl.ShareBook) bool {
+	return saidOk(b) && len(b.Batches) > 0 && len(saidMoves(b)) == 0
+}
+
+// saidWaits is ShareWaits by the words of chapter 4.
+func saidWaits(b impl.ShareBook, name string) []string {
+	var waits []string
+	for _, x := range b.Batches {
+		for _, other := range b.Batches {
+			if saidOk(b) && x.Name == name && other.Name != name && meets(other.Has, x.Needs) {
+				waits = append(waits, other.Name)
+			}
+		}
+	}
+	return waits
+}
+
+// saidMovesOf is movesOf by the words of chapter 4.
+func saidMovesOf(b impl.ShareBook) [][]string {
+	told := [][]string{saidMoves(b)}
+	for _, x := range b.Batches {
+		told = append(told, saidWaits(b, x.Name))
+	}
+	return told
+}
+
 // sameBook says whether two books are the same, nil lists and empty lists alike.
 func sameBook(b, c impl.ShareBook) bool {
 	return slices.Equal(b.Things, c.Things) && slices.EqualFunc(b.Batches, c.Batches, func(x, y impl.ShareBatch) bool {

@@ -77,8 +77,6 @@ func TestOrder(t *testing.T) {
 		batch("3", list("a"), list("a")),
 		batch("4", list("b"), list("b")),
 	}}
-	halfStuck := ringBook()
-	halfStuck.Batches = append(halfStuck.Batches, batch("e", list("pipe"), list("pipe")))
 	for _, c := range []struct {
 		what string
 		b    impl.ShareBook
@@ -87,7 +85,7 @@ func TestOrder(t *testing.T) {
 	}{
 		{"one frees the next", brewBook(), list("b", "ale", "dark"), true},
 		{"a ring", ringBook(), nil, false},
-		{"one can go, the others never", halfStuck, nil, false},
+		{"one can go, the others never", halfStuckBook(), nil, false},
 		{"from the last to the first", chain, list("5", "4", "3", "2", "1"), true},
 		{"the first again as soon as it can", backToFirst, list("3", "1", "4", "2"), true},
 		{"nobody has anything", impl.ShareBook{Things: list("a"), Batches: []impl.ShareBatch{batch("x", nil, list("a")), batch("y", nil, list("a"))}}, list("x", "y"), true},
