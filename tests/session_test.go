@@ -350,6 +350,38 @@ func TestSessionBad(t *testing.T) {
 	dialogue(t, "", "bad", "show", "none", "", "bad", "", "bad", "things a", "ok")
 }
 
+// TestSessionWordCounts holds each word of the table against every number of words behind it, from none up.
+func TestSessionWordCounts(t *testing.T) {
+	const any = 5
+	for _, c := range []struct {
+		word        string
+		least, most int
+	}{
+		{"things", 0, any}, {"enter", 1, any}, {"ask", 1, any}, {"less", 1, any}, {"leave", 1, 1},
+		{"show", 0, 0}, {"order", 0, 0}, {"moves", 0, 0}, {"waits", 1, 1}, {"who", 1, 1},
+	} {
+		for count := range any + 1 {
+			line := c.word + strings.Repeat(" b", count)
+			if count < c.least || count > c.most {
+				between(t, line, "bad")
+			} else if told := impl.ShareSession(line); told == "bad\n" {
+				t.Errorf("%q is bad", line)
+			}
+		}
+	}
+}
+
+// TestSessionWordsAlmost holds texts that are nearly words of the table to be none, with every number of words behind them.
+func TestSessionWordsAlmost(t *testing.T) {
+	for _, word := range list("things", "enter", "ask", "less", "leave", "show", "order", "moves", "waits", "who") {
+		for _, almost := range list(word[1:], word[:len(word)-1], word+"s", word+"e", "s"+word, word+word, word+":", word+"!", strings.ToUpper(word), strings.ToUpper(word[:1])+word[1:]) {
+			for count := range 4 {
+				between(t, almost+strings.Repeat(" b", count), "bad")
+			}
+		}
+	}
+}
+
 func TestSessionSpaces(t *testing.T) {
 	for _, line := range list("things keg", "things", "enter c keg", "enter c", "ask ale tun", "ask ale", "less ale keg", "less ale", "leave ale", "show", "order", "moves", "waits b", "who keg", "") {
 		between(t, " "+line, "bad")
